@@ -149,6 +149,21 @@ func TestAllIsAsItWasAtTheBeginning(t *testing.T) {
 	}
 }
 
+func TestOrderOfOperationsDoesNotMatter(t *testing.T) {
+	a := made(t, 4, 1, 2, 3, 4)
+	b := made(t, 4, 4, 9, 3, 1)
+	b.Take(9)
+	b.Put(2, ref(2))
+	if !slices.Equal(bytes(a), bytes(b)) {
+		t.Error(bytes(a), bytes(b))
+	}
+	for x, r := range a.All() {
+		if got, is := b.Find(x); got != r || !is {
+			t.Error(x, got, is)
+		}
+	}
+}
+
 func TestCopyIsIndependent(t *testing.T) {
 	k := made(t, 4, 1, 2)
 	c := k.Copy()
