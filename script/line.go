@@ -1,7 +1,6 @@
 package script
 
 import (
-	"iter"
 	"strconv"
 	"strings"
 
@@ -273,17 +272,4 @@ func isDone(d api.Done) func(*line) bool {
 
 func showDone(d api.Done) (string, bool) {
 	return write(line{done: d}, (*line).ends, isDone(d))
-}
-
-// lines yields the lines of a text by their indices; the last one may lack its line feed.
-func lines(text string) iter.Seq2[int, string] {
-	return func(yield func(int, string) bool) {
-		i := 0
-		for l := range strings.Lines(text) {
-			if !yield(i, l) {
-				return
-			}
-			i++
-		}
-	}
 }
