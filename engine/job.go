@@ -11,6 +11,7 @@ type job struct {
 	*core
 	request api.Request
 	session int
+	does    func(*job) bool
 	op      *op.Op // of an operation that has begun
 	began   bool
 	decided bool
@@ -20,8 +21,8 @@ type job struct {
 	own     int // locks that it has taken itself
 }
 
-// does returns what is done in a pick of the request; it reports whether that was the last one.
-func (j *job) does() func(*job) bool {
+// doing returns what is done in a pick of a deed; it reports whether that was the last one.
+func doing(d api.Deed) func(*job) bool {
 	do, is := map[api.Deed]func(*job) bool{
 		api.Get:    (*job).operate,
 		api.Put:    (*job).operate,
@@ -33,7 +34,7 @@ func (j *job) does() func(*job) bool {
 		api.Remove: (*job).remove,
 		api.Issue:  (*job).issue,
 		api.Revoke: (*job).revoke,
-	}[j.request.Deed]
+	}[d]
 	if !is {
 		return (*job).refuse
 	}
@@ -50,7 +51,7 @@ func (j *job) Pick() bool {
 		j.effort.Met++
 	}
 	before := j.tree.Taken()
-	ended := j.does()(j)
+	ended := j.does(j)
 	j.own += j.tree.Taken() - before
 	if counts {
 		j.effort.Picks++
