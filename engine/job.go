@@ -119,6 +119,7 @@ func (j *job) revoke() bool {
 
 // end records the event of a job that has ended.
 func (j *job) end() {
+	j.op = nil // its answer and its effort are all that is still asked for
 	j.done.To = j.now
 	j.ended = append(j.ended, j.done)
 	h := j.request.Handle
