@@ -251,6 +251,23 @@ func TestLikeTheModel(t *testing.T) {
 	}
 }
 
+func TestAllKinds(t *testing.T) {
+	x, a := made(t, 600)
+	model, room := art.New(), x.Room()
+	for i := range 256 {
+		c := coded("x" + string([]byte{byte(i * 77)}))
+		changed(t, x, a, c, true, func() ([]api.Ref, api.Errno) { return x.Put(a, c, "v") })
+		model.Put(c, "v")
+		like(t, x, a, model, room)
+	}
+	for i := range 256 {
+		c := coded("x" + string([]byte{byte(i * 33)}))
+		changed(t, x, a, c, false, func() ([]api.Ref, api.Errno) { return x.Drop(a, c) })
+		model.Delete(c)
+		like(t, x, a, model, room)
+	}
+}
+
 // changed does a change and checks that it did what its plan says, and changed no other node.
 func changed(t *testing.T, x *tree.Tree, a api.Ref, c string, put bool, do func() ([]api.Ref, api.Errno)) {
 	t.Helper()
